@@ -163,6 +163,21 @@ func checkPieces(t *testing.T, p api.Packet, most int, l []api.Packet) {
 	}
 }
 
+// P4.1: the last piece has what is left behind pieces that are all as large as they may be, so never more than they.
+func TestSplitLeavesTheLastOneWhatIsLeft(t *testing.T) {
+	p := packet(func(p *api.Packet) { p.Options = "" })
+	for most := 68; most < 76; most++ {
+		var sizes []int
+		l, e := frag.Split(p, most)
+		for _, q := range l {
+			sizes = append(sizes, len(q.Data))
+		}
+		if !slices.Equal(sizes, []int{48, 48, 3}) || e != api.OK {
+			t.Errorf("at most %d: pieces of %v, %d", most, sizes, e)
+		}
+	}
+}
+
 // P4.1: the greatest packets, the smallest pieces, and all there is between them.
 func TestSplitOfGreatPackets(t *testing.T) {
 	for _, p := range []api.Packet{
