@@ -747,6 +747,33 @@ func TestRemoveUndoesPut(t *testing.T) {
 	}
 }
 
+// What a net is, and what is in it, for those who have nets too; with what is no net there is nothing.
+func TestNets(t *testing.T) {
+	some := []uint32{0, 1, 2, 0x0a010203, 0x7fffffff, 1 << 31, 0xc0000000, math.MaxUint32}
+	longs := far()
+	for long := range 70 {
+		longs = append(longs, long)
+	}
+	for _, long := range longs {
+		for _, a := range some {
+			list := []api.Net{net(a, long)}
+			if long >= 0 && long <= 32 {
+				list = append(list, start(net(a, 32), long))
+			}
+			for _, n := range list {
+				if prefix.IsNet(n) != isNet(n) {
+					t.Errorf("IsNet(%v) = %t", n, prefix.IsNet(n))
+				}
+				for _, b := range append(some, a-1, a+1, a^1<<31, a^1<<16) {
+					if want := isNet(n) && has(n, b); prefix.Has(n, b) != want {
+						t.Errorf("Has(%v, %x) = %t", n, b, !want)
+					}
+				}
+			}
+		}
+	}
+}
+
 // withRoom has spare room behind its nodes, which isn't bare.
 func withRoom(t api.Trie) api.Trie {
 	list := make([]api.Node, 0, len(t.Nodes)+40)
